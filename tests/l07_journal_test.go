@@ -34,7 +34,11 @@ func tellJournal(j impl.Journal) string {
 
 func tellActs(acts []impl.Act) string {
 	var out strings.Builder
-	for _, a := range acts {
+	for at, a := range acts {
+		if at == 8 {
+			fmt.Fprintf(&out, " .. %d of them", len(acts))
+			break
+		}
 		fmt.Fprintf(&out, " (%d %q %.24q of %d bytes, %q)", a.Kind, a.Name, a.Text, len(a.Text), a.To)
 	}
 	return "acts" + out.String()
