@@ -6,6 +6,7 @@ import (
 	"math"
 	"slices"
 	"strings"
+	"sync"
 	"testing"
 
 	"loop.example/g00188/impl"
@@ -1995,54 +1996,75 @@ func TestABoardsDay(t *testing.T) {
 	}
 }
 
-// boards of any fields and lists
+func strangeNumber(d *draw) int {
+	numbers := []int{math.MinInt64, math.MinInt64 + 1, -1 << 32, -5, -1, 0, 0, 0, 1, 1, 2, 2, 3, 4, 5, 60, 1000, 1000000, 68374079, 68374080, 68374180, 999999991, 1000000000, 1 << 32, math.MaxInt64 - 1, math.MaxInt64}
+	return numbers[d.below(len(numbers))]
+}
+
+func strangeText(d *draw) string {
+	texts := []string{"", "ann", "ann", "ann", "bob", "bob", "a", "\xff", strings.Repeat("ann", 500)}
+	return texts[d.below(len(texts))]
+}
+
+// plans that are not right, and not great either, made once
+var smallWrongDags = sync.OnceValue(func() []impl.Dag {
+	return slices.DeleteFunc(wrongDags(), func(d impl.Dag) bool { return len(d.Tasks) > 10 })
+})
+
+// a board of any fields and lists; now and then it is right
+func strangeBoard(d *draw) impl.Board {
+	wrong := smallWrongDags()
+	b := impl.Board{Clock: strangeNumber(d), Tokens: strangeNumber(d)}
+	for range d.below(3) * d.below(3) {
+		b.Sessions = append(b.Sessions, session(strangeNumber(d), strangeNumber(d), strangeText(d)))
+	}
+	for range d.below(5) {
+		p := impl.Plan{Paused: d.below(4) == 0, Cursor: strangeNumber(d), Floor: strangeNumber(d)}
+		switch d.below(4) {
+		case 0:
+			p.Dag = wrong[d.below(len(wrong))]
+		case 1, 2:
+			p.Dag = named(strangeText(d), []impl.Dag{handDag(), diamond(), chain(), dagOf(one("a"))}[d.below(4)])
+		case 3:
+			p.Dag = drawnDag(d)
+		}
+		b.Plans = append(b.Plans, p)
+	}
+	for range d.below(13) {
+		b.Runs = append(b.Runs, strangeRun(d, b.Plans))
+	}
+	return b
+}
+
+// a run, most often one of these plans
+func strangeRun(d *draw, plans []impl.Plan) impl.Run {
+	r := impl.Run{Dag: strangeText(d), Span: span(strangeNumber(d), strangeNumber(d)), Epoch: strangeNumber(d)}
+	size := d.below(6)
+	if len(plans) > 0 && d.below(3) > 0 {
+		p := plans[d.below(len(plans))]
+		r.Dag, size = p.Dag.Name, len(p.Dag.Tasks)
+		from := d.below(5)
+		r.Span, r.Epoch = span(from, from+1+d.below(3)), 0
+	}
+	for range size {
+		s := state(strangeNumber(d), strangeNumber(d), strangeNumber(d), strangeNumber(d))
+		if d.below(4) > 0 {
+			s = states([]int{0, 0, 2, 2, 1, 3}[d.below(6)])[0]
+		}
+		r.Tasks = append(r.Tasks, s)
+	}
+	return r
+}
+
 func TestStrangeBoards(t *testing.T) {
 	d := draw(4015)
-	numbers := []int{math.MinInt64, math.MinInt64 + 1, -1 << 32, -5, -1, 0, 0, 0, 1, 1, 2, 2, 3, 4, 5, 60, 1000, 1000000, 68374079, 68374080, 68374180, 999999991, 1000000000, 1 << 32, math.MaxInt64 - 1, math.MaxInt64}
-	texts := []string{"", "ann", "ann", "ann", "bob", "bob", "a", "\xff", strings.Repeat("ann", 500)}
-	number := func() int { return numbers[d.below(len(numbers))] }
-	text := func() string { return texts[d.below(len(texts))] }
-	wrong := slices.DeleteFunc(wrongDags(), func(d impl.Dag) bool { return len(d.Tasks) > 10 })
 	rights := 0
 	for range 5000 {
-		b := impl.Board{Clock: number(), Tokens: number()}
-		for range d.below(3) * d.below(3) {
-			b.Sessions = append(b.Sessions, session(number(), number(), text()))
-		}
-		for range d.below(5) {
-			p := impl.Plan{Paused: d.below(4) == 0, Cursor: number(), Floor: number()}
-			switch d.below(4) {
-			case 0:
-				p.Dag = wrong[d.below(len(wrong))]
-			case 1, 2:
-				p.Dag = named(text(), []impl.Dag{handDag(), diamond(), chain(), dagOf(one("a"))}[d.below(4)])
-			case 3:
-				p.Dag = drawnDag(&d)
-			}
-			b.Plans = append(b.Plans, p)
-		}
-		for range d.below(13) {
-			r := impl.Run{Dag: text(), Span: span(number(), number()), Epoch: number()}
-			size := d.below(6)
-			if len(b.Plans) > 0 && d.below(3) > 0 {
-				p := b.Plans[d.below(len(b.Plans))]
-				r.Dag, size = p.Dag.Name, len(p.Dag.Tasks)
-				from := d.below(5)
-				r.Span, r.Epoch = span(from, from+1+d.below(3)), 0
-			}
-			for range size {
-				s := state(number(), number(), number(), number())
-				if d.below(4) > 0 {
-					s = states([]int{0, 0, 2, 2, 1, 3}[d.below(6)])[0]
-				}
-				r.Tasks = append(r.Tasks, s)
-			}
-			b.Runs = append(b.Runs, r)
-		}
+		b := strangeBoard(&d)
 		if lookAtBoard(t, b) {
 			rights++
 		}
-		k, i, from, name := number(), number(), number(), text()
+		k, i, from, name := strangeNumber(&d), strangeNumber(&d), strangeNumber(&d), strangeText(&d)
 		wantPast(t, b, k, i, plainPast(b, k, i))
 		wantRunAt(t, b, name, from, plainRunAt(b, name, from))
 		wantPlanAt(t, b, name, plainPlanAt(b, name))
