@@ -227,17 +227,21 @@ func plainPause(b impl.Board, name string, yes bool) (impl.Board, string) {
 	return b, "set"
 }
 
+// the new session and all others but one of its Token; of four the least is gone
 func plainOpen(b impl.Board, index int) (impl.Board, string) {
-	next := copyBoard(b)
-	next.Sessions = append(next.Sessions, session(index, 0, ""))
-	slices.SortStableFunc(next.Sessions, func(x, y impl.Session) int { return cmp.Compare(x.Token, y.Token) })
-	if len(next.Sessions) == 4 {
-		next.Sessions = next.Sessions[1:]
+	b = copyBoard(b)
+	list := []impl.Session{session(index, 0, "")}
+	for _, s := range b.Sessions {
+		if s.Token != index {
+			list = append(list, s)
+		}
 	}
-	if !plainBoardOk(next) {
-		return b, "full"
+	slices.SortFunc(list, func(x, y impl.Session) int { return cmp.Compare(x.Token, y.Token) })
+	if len(list) == 4 {
+		list = list[1:]
 	}
-	return next, fmt.Sprintf("open %d", index)
+	b.Sessions = list
+	return b, fmt.Sprintf("open %d", index)
 }
 
 // what a command of a session does, whichever session that is
@@ -292,12 +296,11 @@ func plainPerform(b impl.Board, index int, x impl.Command) (impl.Board, string, 
 	return next, reply, true
 }
 
-// what is read of an entry is the next chapter's to tell
 func plainFold(b impl.Board, list []impl.Entry, index int) (impl.Board, []string) {
 	b = copyBoard(b)
 	replies := make([]string, len(list))
 	for at, e := range list {
-		x, ok := impl.ReadCommand(e.Data)
+		x, ok := plainReadCommand(e.Data)
 		if e.Kind != 3 || !ok {
 			continue
 		}
@@ -1775,14 +1778,23 @@ func TestPerformOpen(t *testing.T) {
 		handDeed(t, b, performing(known.index, open), want, fmt.Sprint("open ", known.index))
 		acceptBoard(t, want)
 	}
-	// with a session of this Token there would be two: the board stays, unless that is the one that goes
-	for _, have := range [][]impl.Session{{session(5, 3, "x")}, {session(5, 0, "")}, {session(4, 0, ""), session(5, 1, "x")}, {session(5, 1, "x"), session(9, 0, "")}, {session(3, 0, ""), session(5, 1, "x"), session(9, 2, "")}, {session(3, 0, ""), session(4, 1, "x"), session(5, 2, "")}} {
-		wantStays(t, askedBoard(have...), performing(5, open), "full")
+	// a session of this Token begins anew, and no other one is gone for it
+	for _, have := range [][]impl.Session{
+		{session(5, 3, "x")}, {session(5, 0, "")}, {session(4, 0, ""), session(5, 1, "x")}, {session(5, 1, "x"), session(9, 0, "")},
+		{session(3, 0, ""), session(5, 1, "x"), session(9, 2, "")}, {session(3, 0, ""), session(4, 1, "x"), session(5, 2, "")}, {session(5, 1, "x"), session(7, 1, "x"), session(9, 2, "")},
+	} {
+		b := askedBoard(have...)
+		at := slices.IndexFunc(have, func(s impl.Session) bool { return s.Token == 5 })
+		then := handDeed(t, b, performing(5, open), changed(b, func(b *impl.Board) { b.Sessions[at] = session(5, 0, "") }), "open 5")
+		acceptBoard(t, then)
+		wantStays(t, then, performing(5, open), "open 5")
+		// what was asked of the old one may be asked of the new one from 1 on
+		wantStays(t, then, performing(6, impl.Command{Op: 4, Token: 5, Seq: 0, Num: 0}), "old")
+		wantStays(t, then, performing(6, impl.Command{Op: 4, Token: 5, Seq: 2, Num: 0}), "gap")
+		handDeed(t, then, performing(6, impl.Command{Op: 4, Token: 5, Seq: 1, Num: 0}), changed(then, func(b *impl.Board) { b.Sessions[at] = session(5, 1, "past") }), "past")
 	}
-	b := askedBoard(session(5, 1, "x"), session(7, 1, "x"), session(9, 2, ""))
-	handDeed(t, b, performing(5, open), changed(b, func(b *impl.Board) { b.Sessions[0] = session(5, 0, "") }), "open 5")
 	// what is opened may ask from 1 on
-	b = impl.BoardNew()
+	b := impl.BoardNew()
 	for index := 1; index <= 6; index++ {
 		b, _ = lookAtDeed(t, b, performing(10*index, open))
 		wantStays(t, b, performing(500, impl.Command{Op: 5, Token: 10 * index, Seq: 0}), "old")
@@ -1792,6 +1804,48 @@ func TestPerformOpen(t *testing.T) {
 		if index > 3 {
 			wantStays(t, b, performing(500, impl.Command{Op: 5, Token: 10 * (index - 3), Seq: 1}), "none")
 		}
+	}
+}
+
+// at each Token that a board has, next to it, and wherever none is
+func TestDrawnOpens(t *testing.T) {
+	open := impl.Command{Op: 1}
+	d := draw(14016)
+	again, fresh, refused := [4]int{}, [4]int{}, 0
+	for range 1500 {
+		b := drawnBoard(&d)
+		count := len(b.Sessions)
+		var indexes []int
+		for at, s := range b.Sessions {
+			indexes = append(indexes, s.Token-1, s.Token+1, 1+d.below(400000))
+			if s.Token > 400000 {
+				handDeed(t, b, performing(s.Token, open), impl.Board{}, refusal)
+				refused++
+				continue
+			}
+			then := handDeed(t, b, performing(s.Token, open), changed(b, func(b *impl.Board) { b.Sessions[at] = session(s.Token, 0, "") }), fmt.Sprint("open ", s.Token))
+			acceptBoard(t, then)
+			again[count]++
+		}
+		for _, index := range append(indexes, 1, 2, 399999, 400000) {
+			taken := slices.ContainsFunc(b.Sessions, func(s impl.Session) bool { return s.Token == index })
+			if taken || index < 1 || index > 400000 {
+				continue
+			}
+			then := handDeed(t, b, performing(index, open), changed(b, func(b *impl.Board) {
+				place := 0
+				for place < count && b.Sessions[place].Token < index {
+					place++
+				}
+				b.Sessions = slices.Insert(b.Sessions, place, session(index, 0, ""))
+				b.Sessions = b.Sessions[max(0, count-2):]
+			}), fmt.Sprint("open ", index))
+			acceptBoard(t, then)
+			fresh[count]++
+		}
+	}
+	if slices.Min(again[1:]) < 200 || slices.Min(fresh[:]) < 500 || refused < 20 {
+		t.Errorf("with none, one, two and three sessions %v are opened again and %v anew, %d are refused", again, fresh, refused)
 	}
 }
 
@@ -1962,14 +2016,16 @@ func TestPerformFull(t *testing.T) {
 	handDeed(t, b, performing(9, impl.Command{Op: 2, Token: 3, Seq: 6, Text: textOf("dag cid", "cron 0 * * * *", "from 0", "to 0", "latest", "task a one 0 free")}), changed(b, func(b *impl.Board) { b.Sessions[0] = session(3, 6, "full") }), "full")
 }
 
-// a whole life by hand, by two sessions
-func TestALifeByCommands(t *testing.T) {
+// a command, and what is replied to it
+type lifeStep struct {
+	x     impl.Command
+	reply string
+}
+
+// a whole life by hand, by two sessions, from the index 1 on
+func lifeSteps() []lifeStep {
 	plan := textOf("dag ann", "cron 0 * * * *", "from 0", "to 300", "catchup", "task a one 1 free", "task b two 0 past a")
-	b := impl.BoardNew()
-	for at, step := range []struct {
-		x     impl.Command
-		reply string
-	}{
+	return []lifeStep{
 		{impl.Command{Op: 1}, "open 1"},
 		{impl.Command{Op: 1}, "open 2"},
 		{impl.Command{Op: 2, Token: 1, Seq: 1, Text: "dag ann\n"}, "fault 2"},
@@ -2027,7 +2083,12 @@ func TestALifeByCommands(t *testing.T) {
 		{impl.Command{Op: 1}, "open 52"},
 		{impl.Command{Op: 5, Token: 1, Seq: 23}, "none"},
 		{impl.Command{Op: 5, Token: 2, Seq: 18}, "failed"},
-	} {
+	}
+}
+
+func TestALifeByCommands(t *testing.T) {
+	b := impl.BoardNew()
+	for at, step := range lifeSteps() {
 		next, reply := lookAtDeed(t, b, performing(at+1, step.x))
 		if reply != step.reply {
 			t.Fatalf("number %d, %+v, is replied %q, not %q, on %s", at+1, step.x, reply, step.reply, tellBoard(b))
@@ -2040,16 +2101,8 @@ func TestALifeByCommands(t *testing.T) {
 	}
 }
 
-// a command in bytes, as the next chapter has it: what is no command of it yet is none for Fold either
-func commandData(x impl.Command) string {
-	number := func(n int) string {
-		text, _ := impl.VarText(n)
-		return text
-	}
-	short := func(s string) string { return number(len(s)) + s }
-	flag := map[bool]string{true: "\x01", false: "\x00"}[x.Yes]
-	return string([]byte{byte(x.Op)}) + number(x.Token) + number(x.Seq) + short(x.Text) + short(x.Task) + number(x.Num) + number(x.To) + flag
-}
+// a command in bytes, as the next chapter has it, whether it is right or not
+func commandData(x impl.Command) string { return commandPieces(x).text() }
 
 func wantFold(t *testing.T, b impl.Board, list []impl.Entry, index int, want impl.Board, replies ...string) {
 	t.Helper()
@@ -2104,11 +2157,9 @@ func TestFoldOfCommands(t *testing.T) {
 			}
 			wantFold(t, b, list, index, step, replies...)
 		}
-		if _, ok := impl.ReadCommand(open); ok {
-			_, said := impl.Fold(b, list, 6)
-			if said[1] != "open 7" && said[1] != "full" || said[0]+said[2]+said[4] != "" || said[5] != said[6] || said[9] != "open 15" {
-				t.Errorf("Fold(%s, %v, 6) is replied %q", tellBoard(b), list, said)
-			}
+		_, said := impl.Fold(b, list, 6)
+		if said[1] != "open 7" || said[0]+said[2]+said[4] != "" || said[5] != said[6] || said[9] != "open 15" {
+			t.Errorf("Fold(%s, %v, 6) is replied %q", tellBoard(b), list, said)
 		}
 	}
 	// the Term has no part in it, nor that an entry is right
