@@ -4,6 +4,7 @@ import (
 	"math"
 	"slices"
 	"strings"
+	"sync"
 	"testing"
 
 	"loop.example/g00188/impl"
@@ -35,6 +36,9 @@ func handConfs() []struct {
 		{[]int{1, 2, 3, 4}, "\x01\x02\x03\x04"},
 	}
 }
+
+// the same, made once, for those who ask again and again and write nothing into it
+var keptConfs = sync.OnceValue(handConfs)
 
 func wrongConfs() [][]int {
 	return [][]int{
@@ -73,7 +77,7 @@ func listsOf(numbers []int, most int) [][]int {
 
 // the text of each right conf, by its place in the table that is written out by hand
 func plainConfText(conf []int) (string, bool) {
-	for _, c := range handConfs() {
+	for _, c := range keptConfs() {
 		if slices.Equal(c.conf, conf) {
 			return c.text, true
 		}
@@ -82,9 +86,9 @@ func plainConfText(conf []int) (string, bool) {
 }
 
 func plainReadConf(text string) ([]int, bool) {
-	for _, c := range handConfs() {
+	for _, c := range keptConfs() {
 		if c.text == text {
-			return c.conf, true
+			return slices.Clone(c.conf), true
 		}
 	}
 	return nil, false
@@ -240,8 +244,14 @@ func plainEntryOk(e impl.Entry) bool {
 	if e.Term < 0 || e.Term > 100000 {
 		return false
 	}
-	_, conf := plainReadConf(e.Data)
-	return e.Kind == 1 && e.Data == "" || e.Kind == 2 && conf || e.Kind == 3 && len(e.Data) <= 640
+	switch e.Kind {
+	case 1:
+		return e.Data == ""
+	case 2:
+		_, right := plainReadConf(e.Data)
+		return right
+	}
+	return e.Kind == 3 && len(e.Data) <= 640
 }
 
 // ReadEntry by the chapter's words: of all the ways to part the text the one of which it is the text
